@@ -1,0 +1,52 @@
+package cells_test
+
+import (
+	"testing"
+
+	"cells/api"
+)
+
+// The document's examples, those without Step.
+func TestExamples(t *testing.T) {
+	glider := mustLoad(t, "MB3/S23 P5,4 0 1,1 .A$..A$3A!")
+	wantSave(t, glider, "MB3/S23 P5,4 0 1,1 .A$2.A$3A!")
+	if glider.Count() != 5 {
+		t.Errorf("Count: %d, want 5", glider.Count())
+	}
+	wantSave(t, mustLoad(t, "VB01234/S4/3 T3+2,2 5 -1,-1 3B$3A$BA!"), "VB01234/S4/3 T3+2,2 5 0,0 2A$A!")
+	wantSave(t, mustLoad(t, "MB1/S P0,12 0 -40,0 A62.A!"), "MB1/S P0,12 0 -40,0 A62.A!")
+	refuse(t, "MB33/S", 3, api.ErrText)
+	refuse(t, "MB/S P13,", 7, api.ErrText)
+	refuse(t, "MB/S S3,33", 9, api.ErrText)
+	refuse(t, "MB/S P3,3 0 1,1 .A", 18, api.ErrText)
+	refuse(t, "MB03/S P0,3 0 0,0 !", 0, api.ErrBirth)
+	refuse(t, "MB/S P0,3 0 0,0 A63.A!", 0, api.ErrRoom)
+	for _, c := range []struct {
+		text string
+		gets [][3]int // column, row, answer
+	}{
+		{"MB/S/9 T3+1,2 0 0,0 ABC$DEF!", [][3]int{{0, 2, 3}, {1, 2, 1}, {2, 2, 2}, {0, -1, 5}}},
+		{"MB/S/9 K3*,2 0 0,0 ABC$DEF!", [][3]int{{0, 2, 3}, {1, 2, 2}, {2, 3, 4}, {0, -1, 6}}},
+		{"MB/S/9 C3,2 0 0,0 ABC$DEF!", [][3]int{{3, 0, 4}, {0, 2, 3}, {3, 2, 6}}},
+	} {
+		w := mustLoad(t, c.text)
+		for _, g := range c.gets {
+			if got := w.Get(g[0], g[1]); got != g[2] {
+				t.Errorf("%s: Get(%d, %d): %d, want %d", c.text, g[0], g[1], got, g[2])
+			}
+		}
+	}
+	w := mustLoad(t, "MB/S/4 T3,2 0 0,0 !")
+	for _, p := range []struct {
+		x, y, state int
+		want        api.Errno
+	}{{0, 0, 1, api.OK}, {2, 1, 3, api.OK}, {2, 1, 4, api.ErrState}, {3, 0, 1, api.ErrCell}} {
+		if got := w.Put(p.x, p.y, p.state); got != p.want {
+			t.Errorf("Put(%d, %d, %d): %d, want %d", p.x, p.y, p.state, got, p.want)
+		}
+	}
+	wantSave(t, w, "MB/S/4 T3,2 0 0,0 A$2.C!")
+	if w.Count() != 2 {
+		t.Errorf("Count: %d, want 2", w.Count())
+	}
+}
