@@ -6,7 +6,7 @@ import (
 	"cells/api"
 )
 
-// The document's examples, those without Step.
+// The document's examples without Step.
 func TestExamples(t *testing.T) {
 	glider := mustLoad(t, "MB3/S23 P5,4 0 1,1 .A$..A$3A!")
 	wantSave(t, glider, "MB3/S23 P5,4 0 1,1 .A$2.A$3A!")
@@ -48,5 +48,23 @@ func TestExamples(t *testing.T) {
 	wantSave(t, w, "MB/S/4 T3,2 0 0,0 A$2.C!")
 	if w.Count() != 2 {
 		t.Errorf("Count: %d, want 2", w.Count())
+	}
+}
+
+// The document's examples of generations in planes with two sides.
+func TestExamplesStep(t *testing.T) {
+	for _, c := range []struct {
+		text  string
+		saves []string // behind Step(1), one by one
+	}{
+		{"MB3/S23 P5,5 0 1,2 3A!", []string{"MB3/S23 P5,5 1 2,1 A$A$A!", "MB3/S23 P5,5 2 1,2 3A!"}},
+		{"HB1/S P5,5 0 2,2 A!", []string{"HB1/S P5,5 1 1,1 2A$A.A$.2A!"}},
+		{"MB/S/5 P4,1 0 0,0 ABCD!", []string{"MB/S/5 P4,1 1 0,0 BCD!", "MB/S/5 P4,1 2 0,0 CD!"}},
+	} {
+		w := mustLoad(t, c.text)
+		for _, save := range c.saves {
+			wantStep(t, w, 1, api.OK)
+			wantSave(t, w, save)
+		}
 	}
 }

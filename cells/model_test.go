@@ -181,6 +181,48 @@ func (m *model) put(x int, y int, state int) api.Errno {
 	return api.OK
 }
 
+// around are the neighbours' ways from a cell, one by one.
+var around = map[byte][][2]int{
+	'M': {{-1, -1}, {0, -1}, {1, -1}, {-1, 0}, {1, 0}, {-1, 1}, {0, 1}, {1, 1}},
+	'V': {{0, -1}, {-1, 0}, {1, 0}, {0, 1}},
+	'H': {{-1, -1}, {0, -1}, {-1, 0}, {1, 0}, {0, 1}, {1, 1}},
+}
+
+// next is the state of a cell in the next generation, by the words of the document.
+func (m *model) next(x int, y int) int {
+	sets := strings.Split(m.rule[1:], "/")
+	k := 0
+	for _, way := range around[m.rule[0]] {
+		if m.get(x+way[0], y+way[1]) == 1 {
+			k++
+		}
+	}
+	state := m.get(x, y)
+	switch {
+	case state == 0 && strings.Contains(sets[0], strconv.Itoa(k)):
+		return 1
+	case state == 0:
+		return 0
+	case state == 1 && strings.Contains(sets[1], strconv.Itoa(k)):
+		return 1
+	}
+	return (state + 1) % m.states
+}
+
+// step lets a generation pass in a world with two sides.
+func (m *model) step() {
+	live := map[[2]int]int{}
+	for y := 0; y < m.form.h; y++ {
+		for x := 0; x < m.form.w; x++ {
+			if state := m.next(x, y); state != 0 {
+				live[[2]int{x, y}] = state
+			}
+		}
+	}
+	m.live = live
+	m.age++
+}
+
 // save writes each row cell by cell, and then counts what stands side by side.
 func (m *model) save() string {
 	head := fmt.Sprintf("%s %s %d ", m.rule, m.form, m.age)
@@ -244,5 +286,12 @@ func wantSave(t *testing.T, w *cells.World, want string) {
 	t.Helper()
 	if got := w.Save(); got != want {
 		t.Fatalf("Save: %q, want %q", got, want)
+	}
+}
+
+func wantStep(t *testing.T, w *cells.World, n int, want api.Errno) {
+	t.Helper()
+	if got := w.Step(n); got != want {
+		t.Fatalf("Step(%d): %d, want %d", n, got, want)
 	}
 }

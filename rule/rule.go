@@ -39,3 +39,37 @@ func Neighbours(around byte) int {
 func (r Rule) Has(state int) bool {
 	return state >= 0 && state < r.States
 }
+
+// Near tells whether (x + dx, y + dy) is a neighbour of (x, y); dx and dy are -1, 0 or 1.
+func (r Rule) Near(dx int, dy int) bool {
+	switch r.Around {
+	case Moore:
+		return dx != 0 || dy != 0
+	case Neumann:
+		return (dx == 0) != (dy == 0)
+	case Hexagon:
+		return dx != -dy
+	}
+	return false
+}
+
+// Next gives the state that follows on a state, where so many neighbours have the state 1.
+func (r Rule) Next(state int, ones int) int {
+	if state == 0 && r.Births.has(ones) {
+		return 1
+	}
+	if state == 0 {
+		return 0
+	}
+	if state == 1 && r.Survivals.has(ones) {
+		return 1
+	}
+	if state+1 >= r.States {
+		return 0
+	}
+	return state + 1
+}
+
+func (s Set) has(number int) bool {
+	return number >= 0 && number < len(s) && s[number]
+}
