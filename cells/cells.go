@@ -56,14 +56,14 @@ func (w *World) Put(x int, y int, state int) api.Errno {
 // Count tells how many cells are live (P8).
 func (w *World) Count() int { return w.grid.Count() }
 
-// Step lets n generations pass (P9, P10).
+// Step lets n generations pass (P9 to P11).
 func (w *World) Step(n int) api.Errno {
 	// n is tested first: the sum could pass the bounds of int.
 	if n < 0 || n > api.MaxSteps || w.age+n > api.MaxAge {
 		return api.ErrSteps
 	}
-	// P11 to P13 are still to be built: until then worlds of the other shapes stand still.
-	if w.shape.Kind != shape.Plane || w.shape.Endless() {
+	// P12 and P13 are still to be built: until then spheres and worlds with an endless side stand still.
+	if w.shape.Kind == shape.Sphere || w.shape.Endless() {
 		return api.OK
 	}
 	for i := 0; i < n; i++ {

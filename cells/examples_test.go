@@ -51,7 +51,7 @@ func TestExamples(t *testing.T) {
 	}
 }
 
-// The document's examples of generations in planes with two sides.
+// The document's examples of generations, but for spheres and endless sides.
 func TestExamplesStep(t *testing.T) {
 	for _, c := range []struct {
 		text  string
@@ -60,6 +60,9 @@ func TestExamplesStep(t *testing.T) {
 		{"MB3/S23 P5,5 0 1,2 3A!", []string{"MB3/S23 P5,5 1 2,1 A$A$A!", "MB3/S23 P5,5 2 1,2 3A!"}},
 		{"HB1/S P5,5 0 2,2 A!", []string{"HB1/S P5,5 1 1,1 2A$A.A$.2A!"}},
 		{"MB/S/5 P4,1 0 0,0 ABCD!", []string{"MB/S/5 P4,1 1 0,0 BCD!", "MB/S/5 P4,1 2 0,0 CD!"}},
+		{"VB1/S T5+2,3 0 1,0 A!", []string{"VB1/S T5+2,3 1 0,0 A.A$.A$3.A!"}},
+		{"VB1/S K5*,3 0 1,0 A!", []string{"VB1/S K5*,3 1 0,0 A.A$.A$3.A!"}},
+		{"MB1/S C4,4 0 0,0 A!", []string{"MB1/S C4,4 1 0,0 .A$2A$3.A$2.A!"}},
 	} {
 		w := mustLoad(t, c.text)
 		for _, save := range c.saves {
