@@ -56,18 +56,20 @@ func (w *World) Put(x int, y int, state int) api.Errno {
 // Count tells how many cells are live (P8).
 func (w *World) Count() int { return w.grid.Count() }
 
-// Step lets n generations pass (P9 to P11).
+// Step lets n generations pass (P9 to P13).
 func (w *World) Step(n int) api.Errno {
 	// n is tested first: the sum could pass the bounds of int.
 	if n < 0 || n > api.MaxSteps || w.age+n > api.MaxAge {
 		return api.ErrSteps
 	}
-	// P12 and P13 are still to be built: until then spheres and worlds with an endless side stand still.
-	if w.shape.Kind == shape.Sphere || w.shape.Endless() {
-		return api.OK
-	}
+	first := w.grid
 	for i := 0; i < n; i++ {
-		w.grid = w.next()
+		after, room := w.next()
+		if !room {
+			w.grid = first
+			return api.ErrRoom
+		}
+		w.grid = after
 	}
 	w.age += n
 	return api.OK

@@ -51,7 +51,7 @@ func TestExamples(t *testing.T) {
 	}
 }
 
-// The document's examples of generations, but for spheres and endless sides.
+// The document's examples of generations.
 func TestExamplesStep(t *testing.T) {
 	for _, c := range []struct {
 		text  string
@@ -63,6 +63,7 @@ func TestExamplesStep(t *testing.T) {
 		{"VB1/S T5+2,3 0 1,0 A!", []string{"VB1/S T5+2,3 1 0,0 A.A$.A$3.A!"}},
 		{"VB1/S K5*,3 0 1,0 A!", []string{"VB1/S K5*,3 1 0,0 A.A$.A$3.A!"}},
 		{"MB1/S C4,4 0 0,0 A!", []string{"MB1/S C4,4 1 0,0 .A$2A$3.A$2.A!"}},
+		{"MB1/S S4,4 0 3,0 A!", []string{"MB1/S S4,4 1 0,0 2.A$2.2A$A$.A!"}},
 	} {
 		w := mustLoad(t, c.text)
 		for _, save := range c.saves {
@@ -70,4 +71,10 @@ func TestExamplesStep(t *testing.T) {
 			wantSave(t, w, save)
 		}
 	}
+	glider := mustLoad(t, "MB3/S23 T6,0 0 3,0 .A$2.A$3A!")
+	wantStep(t, glider, 60, api.OK)
+	wantSave(t, glider, "MB3/S23 T6,0 60 0,15 .A$2.A$3A!")
+	far := mustLoad(t, "MB1/S012345678 P0,2 7 -9999,0 A!")
+	wantStep(t, far, 1, api.ErrRoom)
+	wantSave(t, far, "MB1/S012345678 P0,2 7 -9999,0 A!")
 }

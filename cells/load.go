@@ -51,12 +51,17 @@ func (w *World) layRun(x int, y int, run text.Run) bool {
 		if !w.shape.Has(x+i, y) {
 			continue
 		}
-		if !w.shape.Near(x+i, y) {
-			return false
-		}
-		if !w.grid.Put(x+i, y, run.State) {
+		if !w.settle(&w.grid, x+i, y, run.State) {
 			return false
 		}
 	}
 	return true
+}
+
+// settle puts a live cell into a grid of the world's shape; false, if it finds no room there.
+func (w *World) settle(g *grid.Grid, x int, y int, state int) bool {
+	if !w.shape.Near(x, y) {
+		return false
+	}
+	return g.Put(x, y, state)
 }

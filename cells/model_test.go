@@ -130,6 +130,31 @@ func (m *model) get(x int, y int) int {
 	return m.live[m.form.fold(x, y)]
 }
 
+// beyond are the cells that the document names beside the edges and at the corners of a sphere, line for line.
+func (f form) beyond() map[[2]int][2]int {
+	n := f.w
+	named := map[[2]int][2]int{{-1, -1}: {0, 0}, {n, -1}: {0, n - 1}, {-1, n}: {n - 1, 0}, {n, n}: {n - 1, n - 1}}
+	for i := 0; i < n; i++ {
+		named[[2]int{i, -1}] = [2]int{0, i}
+		named[[2]int{-1, i}] = [2]int{i, 0}
+		named[[2]int{i, n}] = [2]int{n - 1, i}
+		named[[2]int{n, i}] = [2]int{i, n - 1}
+	}
+	return named
+}
+
+// neighbour is the state that counts at (x, y): as Get tells it, but beyond the edge of a sphere.
+func (m *model) neighbour(x int, y int) int {
+	if m.form.kind == "S" && !m.form.has(x, y) {
+		at, named := m.form.beyond()[[2]int{x, y}]
+		if !named {
+			return 0
+		}
+		return m.live[at]
+	}
+	return m.get(x, y)
+}
+
 // edges are the least and greatest column and row of the live cells.
 func (m *model) edges() (int, int, int, int) {
 	first := true
@@ -193,7 +218,7 @@ func (m *model) next(x int, y int) int {
 	sets := strings.Split(m.rule[1:], "/")
 	k := 0
 	for _, way := range around[m.rule[0]] {
-		if m.get(x+way[0], y+way[1]) == 1 {
+		if m.neighbour(x+way[0], y+way[1]) == 1 {
 			k++
 		}
 	}
@@ -209,11 +234,20 @@ func (m *model) next(x int, y int) int {
 	return (state + 1) % m.states
 }
 
-// step lets a generation pass in a world with two sides.
+// step lets a generation pass, whether or not there is room for it.
 func (m *model) step() {
+	// One cell beyond the live ones would do along an endless side; with two the model does not hang on that.
+	left, top, right, bottom := m.edges()
+	left, top, right, bottom = left-2, top-2, right+2, bottom+2
+	if m.form.w > 0 {
+		left, right = 0, m.form.w-1
+	}
+	if m.form.h > 0 {
+		top, bottom = 0, m.form.h-1
+	}
 	live := map[[2]int]int{}
-	for y := 0; y < m.form.h; y++ {
-		for x := 0; x < m.form.w; x++ {
+	for y := top; y <= bottom; y++ {
+		for x := left; x <= right; x++ {
 			if state := m.next(x, y); state != 0 {
 				live[[2]int{x, y}] = state
 			}
@@ -221,6 +255,19 @@ func (m *model) step() {
 	}
 	m.live = live
 	m.age++
+}
+
+// steps lets n generations pass, or none if there is no room in one of them.
+func (m *model) steps(n int) api.Errno {
+	live, age := m.live, m.age
+	for i := 0; i < n; i++ {
+		m.step()
+		if !m.roomy() {
+			m.live, m.age = live, age
+			return api.ErrRoom
+		}
+	}
+	return api.OK
 }
 
 // save writes each row cell by cell, and then counts what stands side by side.

@@ -31,18 +31,22 @@ func ruleText(letter byte, births int, survivals int, states int) string {
 	return text
 }
 
+// someState gives a state by chance. Ones are what is counted: there are many of them, whatever the number of states.
+func someState(dice *rand.Rand, states int) int {
+	if dice.Intn(3) == 0 {
+		return dice.Intn(states)
+	}
+	return dice.Intn(2)
+}
+
 // scatter gives a world of that rule and shape with states by chance, and its model.
 func scatter(t *testing.T, dice *rand.Rand, f form, rule string, states int) (*cells.World, *model) {
 	t.Helper()
 	m := &model{rule: rule, states: states, form: f, age: dice.Intn(1000), live: map[[2]int]int{}}
 	w := mustLoad(t, m.save())
-	// Ones are what is counted: there are many of them, whatever the number of states.
 	for y := 0; y < f.h; y++ {
 		for x := 0; x < f.w; x++ {
-			state := dice.Intn(2)
-			if dice.Intn(3) == 0 {
-				state = dice.Intn(states)
-			}
+			state := someState(dice, states)
 			if w.Put(x, y, state) != api.OK {
 				t.Fatalf("%v: Put(%d, %d, %d) is refused", f, x, y, state)
 			}

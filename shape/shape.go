@@ -58,6 +58,35 @@ func (s Shape) Find(x int, y int) (int, int, bool) {
 	return x, y, s.Has(x, y)
 }
 
+// Neighbour gives the cell that (x, y) is for a cell beside it, and whether there is one. On a sphere there are more of them than Find knows, as only neighbours look around its edges.
+func (s Shape) Neighbour(x int, y int) (int, int, bool) {
+	if s.Kind == Sphere && !s.Has(x, y) {
+		return s.aroundEdge(x, y)
+	}
+	return s.Find(x, y)
+}
+
+// aroundEdge gives the cell of a sphere that is named for (x, y) beyond its edge. Column meets row there: with the two changed for one another, what is beyond the edge lies one step out from the cell that is named.
+func (s Shape) aroundEdge(x int, y int) (int, int, bool) {
+	if x < -1 || x > s.Width || y < -1 || y > s.Height {
+		return 0, 0, false
+	}
+	column := ontoSide(y, s.Width)
+	row := ontoSide(x, s.Height)
+	return column, row, true
+}
+
+// ontoSide brings what is beyond an end of a side back to that end.
+func ontoSide(at int, side int) int {
+	if at < 0 {
+		return 0
+	}
+	if at >= side {
+		return side - 1
+	}
+	return at
+}
+
 func (s Shape) folds() bool {
 	return s.Kind == Torus || s.Kind == Klein || s.Kind == Cross
 }
